@@ -1,0 +1,60 @@
+// Package tailor tells how texts differ, and changes them so: see DOC.md.
+package tailor
+
+import "slices"
+
+// Errno is what a call answers: OK or the reason for a refusal.
+type Errno int
+
+const (
+	OK       Errno = 0
+	ErrLong  Errno = 1 // above a bound
+	ErrArg   Errno = 2 // a number that may not be
+	ErrForm  Errno = 3 // no patch
+	ErrHunk  Errno = 4 // a patch that does not fit
+	ErrName  Errno = 5 // no file's name
+	ErrFull  Errno = 6 // too many files
+	ErrThere Errno = 7 // a file that is there already
+	ErrNone  Errno = 8 // a file that is not there
+)
+
+// Distance tells how many lines must go and come (P3).
+func Distance(a string, b string) (int, Errno) {
+	if len(a) > maxText || len(b) > maxText {
+		return 0, ErrLong
+	}
+	return leastChanges(slices.Collect(lines(a)), slices.Collect(lines(b))), OK
+}
+
+// Diff answers a patch from a to b (P4, P5).
+func Diff(a string, b string, context int) (string, Errno) { return "", OK }
+
+// Apply changes a text by a patch (P6, P7).
+func Apply(text string, patch string) (string, Errno, int) { return "", OK, 0 }
+
+// Reverse turns a patch round (P8).
+func Reverse(patch string) (string, Errno, int) { return "", OK, 0 }
+
+// Tree is files. Make it by New.
+type Tree struct{}
+
+// New makes a tree without files (P9).
+func New() *Tree { return nil }
+
+// Put lays a file (P9).
+func (t *Tree) Put(name string, text string) Errno { return OK }
+
+// Drop takes a file away (P9).
+func (t *Tree) Drop(name string) Errno { return OK }
+
+// Get tells a file's text (P9).
+func (t *Tree) Get(name string) (string, Errno) { return "", OK }
+
+// Names tells the files' names (P9).
+func (t *Tree) Names() []string { return nil }
+
+// Patch changes the files, all or none (P10, P11).
+func (t *Tree) Patch(patch string) (Errno, int) { return OK, 0 }
+
+// Compare answers a patch from t to u (P12).
+func (t *Tree) Compare(u *Tree, context int) (string, Errno) { return "", OK }

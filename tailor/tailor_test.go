@@ -1,0 +1,155 @@
+package tailor_test
+
+import (
+	"math"
+	"slices"
+	"strings"
+	"sync"
+	"testing"
+
+	"tailor/tailor"
+)
+
+// The calls as the document lists them.
+var (
+	_ func(string, string) (int, tailor.Errno)                     = tailor.Distance
+	_ func(string, string, int) (string, tailor.Errno)             = tailor.Diff
+	_ func(string, string) (string, tailor.Errno, int)             = tailor.Apply
+	_ func(string) (string, tailor.Errno, int)                     = tailor.Reverse
+	_ func() *tailor.Tree                                          = tailor.New
+	_ func(*tailor.Tree, string, string) tailor.Errno              = (*tailor.Tree).Put
+	_ func(*tailor.Tree, string) tailor.Errno                      = (*tailor.Tree).Drop
+	_ func(*tailor.Tree, string) (string, tailor.Errno)            = (*tailor.Tree).Get
+	_ func(*tailor.Tree) []string                                  = (*tailor.Tree).Names
+	_ func(*tailor.Tree, string) (tailor.Errno, int)               = (*tailor.Tree).Patch
+	_ func(*tailor.Tree, *tailor.Tree, int) (string, tailor.Errno) = (*tailor.Tree).Compare
+)
+
+// The errors as the document numbers them. The type is given, so that a
+// constant of another type, or of none, does not build.
+const (
+	ok       tailor.Errno = tailor.OK
+	errLong  tailor.Errno = tailor.ErrLong
+	errArg   tailor.Errno = tailor.ErrArg
+	errForm  tailor.Errno = tailor.ErrForm
+	errHunk  tailor.Errno = tailor.ErrHunk
+	errName  tailor.Errno = tailor.ErrName
+	errFull  tailor.Errno = tailor.ErrFull
+	errThere tailor.Errno = tailor.ErrThere
+	errNone  tailor.Errno = tailor.ErrNone
+)
+
+func TestErrorsHaveTheirNumbers(t *testing.T) {
+	inOrder := []tailor.Errno{ok, errLong, errArg, errForm, errHunk, errName, errFull, errThere, errNone}
+	for number, err := range inOrder {
+		if int(err) != number {
+			t.Errorf("the error number %d is %d", number, err)
+		}
+	}
+}
+
+// oddStrings are texts, patches and names, good and bad, short and far too long.
+func oddStrings() []string {
+	return []string{
+		"", "\n", "a", "a\n", "\n\n\n", "a\nb", "\x00", "\xff\xfe", "\r\n", "é\n",
+		"@@ -2 +2 @@\n-b\n+c\n", "@@ -1 +1 @@\n-a\n\\ No newline at end of file\n+a\n",
+		"@@", "@@ -0,0 +0,0 @@\n", "@@ -9999,9999 +9999,9999 @@\n", "\\", "+", "-",
+		"--- a\n+++ a\n", "--- /dev/null\n+++ a\n", "--- ", "abcdefgh", "abcdefghi",
+		strings.Repeat("a", maxText), strings.Repeat("\n", maxText+1),
+		strings.Repeat("\n", 30000), strings.Repeat("@@ -1 +1 @@\n", 30000),
+	}
+}
+
+func TestNoCallPanics(t *testing.T) {
+	numbers := []int{0, 1, 5, 6, -1, math.MaxInt, math.MinInt}
+	for _, a := range oddStrings() {
+		tailor.Reverse(a)
+		for _, b := range oddStrings() {
+			tailor.Distance(a, b)
+			tailor.Apply(a, b)
+			for _, number := range numbers {
+				tailor.Diff(a, b, number)
+			}
+			useTree(a, b, numbers)
+		}
+	}
+}
+
+func useTree(a string, b string, numbers []int) {
+	tree, other := tailor.New(), tailor.New()
+	tree.Put(a, b)
+	tree.Put("a", b)
+	other.Put("a", a)
+	tree.Get(a)
+	tree.Names()
+	tree.Patch(b)
+	for _, number := range numbers {
+		tree.Compare(other, number)
+		tree.Compare(tree, number)
+	}
+	tree.Drop(a)
+	tree.Drop(a)
+}
+
+func TestTooLongIsFoundByLength(t *testing.T) {
+	huge := strings.Repeat("a\n", 1<<20)
+	for _, pair := range [][2]string{{huge, ""}, {"a\nb\n", huge}, {huge, huge}} {
+		allocations := testing.AllocsPerRun(10, func() { tailor.Distance(pair[0], pair[1]) })
+		if allocations != 0 {
+			t.Errorf("P1: Distance of %d and %d bytes did other work first: %v allocations", len(pair[0]), len(pair[1]), allocations)
+		}
+	}
+}
+
+func TestAnErrorStandsBesideZero(t *testing.T) {
+	for _, a := range oddStrings() {
+		for _, b := range oddStrings() {
+			number, err := tailor.Distance(a, b)
+			if long := len(a) > maxText || len(b) > maxText; long != (err == tailor.ErrLong) || !long && err != tailor.OK {
+				t.Errorf("P1: Distance of %d and %d bytes tells %d", len(a), len(b), err)
+			}
+			if err != tailor.OK && number != 0 {
+				t.Errorf("P1: Distance of %d and %d bytes is %d beside the error %d", len(a), len(b), number, err)
+			}
+		}
+	}
+}
+
+// distances asks for all pairs of the texts, from the first to the last.
+func distances(texts []string) []int {
+	var all []int
+	for _, a := range texts {
+		for _, b := range texts {
+			number, err := tailor.Distance(a, b)
+			all = append(all, number, int(err))
+		}
+	}
+	return all
+}
+
+func TestAnswersHangOnArgumentsAlone(t *testing.T) {
+	texts := oddStrings()
+	want := distances(texts)
+	slices.Reverse(texts)
+	distances(texts)
+	slices.Reverse(texts)
+	if !slices.Equal(distances(texts), want) {
+		t.Error("P2: Distance answers otherwise after other calls")
+	}
+}
+
+func TestAnswersDoNotHangOnCallsAtTheSameTime(t *testing.T) {
+	texts := oddStrings()
+	want := distances(texts)
+	got := make([][]int, 8)
+	var all sync.WaitGroup
+	for i := range got {
+		all.Go(func() { got[i] = distances(texts) })
+	}
+	all.Wait()
+	for i := range got {
+		if !slices.Equal(got[i], want) {
+			t.Errorf("P2: the caller %d of 8 at the same time got other answers", i)
+		}
+	}
+}
