@@ -31,3 +31,7 @@ func lineEnd(text string) int {
 	}
 	return newline + 1
 }
+
+func isBare(line string) bool {
+	return !strings.HasSuffix(line, "\n")
+}

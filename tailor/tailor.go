@@ -1,7 +1,10 @@
 // Package tailor tells how texts differ, and changes them so: see DOC.md.
 package tailor
 
-import "slices"
+import (
+	"slices"
+	"strings"
+)
 
 // Errno is what a call answers: OK or the reason for a refusal.
 type Errno int
@@ -30,10 +33,29 @@ func Distance(a string, b string) (int, Errno) {
 func Diff(a string, b string, context int) (string, Errno) { return "", OK }
 
 // Apply changes a text by a patch (P6, P7).
-func Apply(text string, patch string) (string, Errno, int) { return "", OK, 0 }
+func Apply(text string, patch string) (string, Errno, int) {
+	if len(text) > maxText {
+		return "", ErrLong, 0
+	}
+	hunks, err, place := readPatch(patch)
+	if err != OK {
+		return "", err, place
+	}
+	return changed(text, hunks)
+}
 
 // Reverse turns a patch round (P8).
-func Reverse(patch string) (string, Errno, int) { return "", OK, 0 }
+func Reverse(patch string) (string, Errno, int) {
+	hunks, err, place := readPatch(patch)
+	if err != OK {
+		return "", err, place
+	}
+	var back strings.Builder
+	for _, h := range hunks {
+		h.turned().write(&back)
+	}
+	return back.String(), OK, 0
+}
 
 // Tree is files. Make it by New.
 type Tree struct{}

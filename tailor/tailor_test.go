@@ -6,6 +6,7 @@ import (
 	"strings"
 	"sync"
 	"testing"
+	"unsafe"
 
 	"tailor/tailor"
 )
@@ -93,16 +94,28 @@ func useTree(a string, b string, numbers []int) {
 
 func TestTooLongIsFoundByLength(t *testing.T) {
 	huge := strings.Repeat("a\n", 1<<20)
-	for _, pair := range [][2]string{{huge, ""}, {"a\nb\n", huge}, {huge, huge}} {
-		allocations := testing.AllocsPerRun(10, func() { tailor.Distance(pair[0], pair[1]) })
-		if allocations != 0 {
-			t.Errorf("P1: Distance of %d and %d bytes did other work first: %v allocations", len(pair[0]), len(pair[1]), allocations)
+	fine := "@@ -1 +1 @@\n-a\n+x\n"
+	hugePatch := fine + huge
+	for name, call := range map[string]func(){
+		"Distance of a long text":        func() { tailor.Distance(huge, "") },
+		"Distance to a long text":        func() { tailor.Distance("a\nb\n", huge) },
+		"Distance of long texts":         func() { tailor.Distance(huge, huge) },
+		"Apply of a long text":           func() { tailor.Apply(huge, fine) },
+		"Apply of a long patch":          func() { tailor.Apply("a\nb\n", hugePatch) },
+		"Apply of a long text and patch": func() { tailor.Apply(huge, hugePatch) },
+		"Reverse of a long patch":        func() { tailor.Reverse(hugePatch) },
+	} {
+		if allocations := testing.AllocsPerRun(10, call); allocations != 0 {
+			t.Errorf("P1: %s did other work first: %v allocations", name, allocations)
 		}
 	}
 }
 
 func TestAnErrorStandsBesideZero(t *testing.T) {
 	for _, a := range oddStrings() {
+		if back, err, _ := tailor.Reverse(a); err != tailor.OK && back != "" {
+			t.Errorf("P1: Reverse of %d bytes is %q beside the error %d", len(a), back, err)
+		}
 		for _, b := range oddStrings() {
 			number, err := tailor.Distance(a, b)
 			if long := len(a) > maxText || len(b) > maxText; long != (err == tailor.ErrLong) || !long && err != tailor.OK {
@@ -111,40 +124,84 @@ func TestAnErrorStandsBesideZero(t *testing.T) {
 			if err != tailor.OK && number != 0 {
 				t.Errorf("P1: Distance of %d and %d bytes is %d beside the error %d", len(a), len(b), number, err)
 			}
+			text, err, at := tailor.Apply(a, b)
+			if err != tailor.OK && text != "" || (err == tailor.OK || err == tailor.ErrLong) && at != 0 {
+				t.Errorf("P1: Apply of %d and %d bytes is %q, %d, %d", len(a), len(b), text, err, at)
+			}
 		}
 	}
 }
 
-// distances asks for all pairs of the texts, from the first to the last.
-func distances(texts []string) []int {
-	var all []int
-	for _, a := range texts {
-		for _, b := range texts {
+// sharesMemory tells if an answer lies within what was handed in.
+func sharesMemory(answer string, handed string) bool {
+	if answer == "" || handed == "" {
+		return false
+	}
+	start := uintptr(unsafe.Pointer(unsafe.StringData(handed)))
+	at := uintptr(unsafe.Pointer(unsafe.StringData(answer)))
+	return at >= start && at < start+uintptr(len(handed))
+}
+
+func TestAnswersAreNewMemory(t *testing.T) {
+	for _, c := range []struct{ text, patch string }{
+		{"a", ""},
+		{"a\nb\n", ""},
+		{"a\nb\n", "@@ -1 +0,0 @@\n-a\n"},
+		{"", "@@ -0,0 +1 @@\n+a long line that comes\n"},
+		{"a\n", "@@ -1 +1 @@\n-a\n+x\n"},
+	} {
+		text, patch := strings.Clone(c.text), strings.Clone(c.patch)
+		got, _, _ := tailor.Apply(text, patch)
+		back, _, _ := tailor.Reverse(patch)
+		for _, handed := range []string{text, patch} {
+			if sharesMemory(got, handed) || sharesMemory(back, handed) {
+				t.Errorf("P1: Apply(%q, %q) or Reverse answers what it was handed", c.text, c.patch)
+			}
+		}
+	}
+}
+
+// answer is what one call answered.
+type answer struct {
+	text   string
+	number int
+	err    tailor.Errno
+}
+
+// answers asks for all pairs of the strings, from the first to the last.
+func answers(strings []string) []answer {
+	var all []answer
+	for _, a := range strings {
+		back, err, place := tailor.Reverse(a)
+		all = append(all, answer{back, place, err})
+		for _, b := range strings {
 			number, err := tailor.Distance(a, b)
-			all = append(all, number, int(err))
+			all = append(all, answer{"", number, err})
+			text, err, place := tailor.Apply(a, b)
+			all = append(all, answer{text, place, err})
 		}
 	}
 	return all
 }
 
 func TestAnswersHangOnArgumentsAlone(t *testing.T) {
-	texts := oddStrings()
-	want := distances(texts)
-	slices.Reverse(texts)
-	distances(texts)
-	slices.Reverse(texts)
-	if !slices.Equal(distances(texts), want) {
-		t.Error("P2: Distance answers otherwise after other calls")
+	odd := oddStrings()
+	want := answers(odd)
+	slices.Reverse(odd)
+	answers(odd)
+	slices.Reverse(odd)
+	if !slices.Equal(answers(odd), want) {
+		t.Error("P2: a call answers otherwise after other calls")
 	}
 }
 
 func TestAnswersDoNotHangOnCallsAtTheSameTime(t *testing.T) {
-	texts := oddStrings()
-	want := distances(texts)
-	got := make([][]int, 8)
+	odd := oddStrings()
+	want := answers(odd)
+	got := make([][]answer, 8)
 	var all sync.WaitGroup
 	for i := range got {
-		all.Go(func() { got[i] = distances(texts) })
+		all.Go(func() { got[i] = answers(odd) })
 	}
 	all.Wait()
 	for i := range got {
