@@ -52,6 +52,22 @@ func (h hunk) changes() bool {
 	return slices.ContainsFunc(h.steps, step.changes)
 }
 
+// add puts a step at the end of the hunk.
+func (h *hunk) add(s step) {
+	h.steps = append(h.steps, s)
+	h.old.count += signs[s.kind].old
+	h.new.count += signs[s.kind].new
+}
+
+// behind is the hunk without steps that stands behind this one, with the line
+// of a step between them.
+func (h hunk) behind(s step) hunk {
+	return hunk{
+		old: span{ahead: h.old.end() + signs[s.kind].old},
+		new: span{ahead: h.new.end() + signs[s.kind].new},
+	}
+}
+
 // turned is the hunk that leads back.
 func (h hunk) turned() hunk {
 	return hunk{old: h.new, new: h.old, steps: turned(h.steps)}

@@ -1,10 +1,7 @@
 // Package tailor tells how texts differ, and changes them so: see DOC.md.
 package tailor
 
-import (
-	"slices"
-	"strings"
-)
+import "strings"
 
 // Errno is what a call answers: OK or the reason for a refusal.
 type Errno int
@@ -23,14 +20,32 @@ const (
 
 // Distance tells how many lines must go and come (P3).
 func Distance(a string, b string) (int, Errno) {
-	if len(a) > maxText || len(b) > maxText {
+	if max(len(a), len(b)) > maxText {
 		return 0, ErrLong
 	}
-	return leastChanges(slices.Collect(lines(a)), slices.Collect(lines(b))), OK
+	changes := 0
+	for _, s := range shortestWay(a, b) {
+		if s.changes() {
+			changes++
+		}
+	}
+	return changes, OK
 }
 
 // Diff answers a patch from a to b (P4, P5).
-func Diff(a string, b string, context int) (string, Errno) { return "", OK }
+func Diff(a string, b string, context int) (string, Errno) {
+	if max(len(a), len(b)) > maxText {
+		return "", ErrLong
+	}
+	if context < 0 || context > maxContext {
+		return "", ErrArg
+	}
+	var patch strings.Builder
+	for h := range hunksOf(shortestWay(a, b), context) {
+		h.write(&patch)
+	}
+	return patch.String(), OK
+}
 
 // Apply changes a text by a patch (P6, P7).
 func Apply(text string, patch string) (string, Errno, int) {

@@ -100,6 +100,9 @@ func TestTooLongIsFoundByLength(t *testing.T) {
 		"Distance of a long text":        func() { tailor.Distance(huge, "") },
 		"Distance to a long text":        func() { tailor.Distance("a\nb\n", huge) },
 		"Distance of long texts":         func() { tailor.Distance(huge, huge) },
+		"Diff of a long text":            func() { tailor.Diff(huge, "", 0) },
+		"Diff to a long text":            func() { tailor.Diff("a\nb\n", huge, 0) },
+		"Diff of long texts":             func() { tailor.Diff(huge, huge, -1) },
 		"Apply of a long text":           func() { tailor.Apply(huge, fine) },
 		"Apply of a long patch":          func() { tailor.Apply("a\nb\n", hugePatch) },
 		"Apply of a long text and patch": func() { tailor.Apply(huge, hugePatch) },
@@ -123,6 +126,11 @@ func TestAnErrorStandsBesideZero(t *testing.T) {
 			}
 			if err != tailor.OK && number != 0 {
 				t.Errorf("P1: Distance of %d and %d bytes is %d beside the error %d", len(a), len(b), number, err)
+			}
+			for _, context := range []int{-1, 0, 5, 6} {
+				if patch, err := tailor.Diff(a, b, context); err != tailor.OK && patch != "" {
+					t.Errorf("P1: Diff of %d and %d bytes is %q beside the error %d", len(a), len(b), patch, err)
+				}
 			}
 			text, err, at := tailor.Apply(a, b)
 			if err != tailor.OK && text != "" || (err == tailor.OK || err == tailor.ErrLong) && at != 0 {
@@ -153,9 +161,10 @@ func TestAnswersAreNewMemory(t *testing.T) {
 		text, patch := strings.Clone(c.text), strings.Clone(c.patch)
 		got, _, _ := tailor.Apply(text, patch)
 		back, _, _ := tailor.Reverse(patch)
+		told, _ := tailor.Diff(text, patch, 1)
 		for _, handed := range []string{text, patch} {
-			if sharesMemory(got, handed) || sharesMemory(back, handed) {
-				t.Errorf("P1: Apply(%q, %q) or Reverse answers what it was handed", c.text, c.patch)
+			if sharesMemory(got, handed) || sharesMemory(back, handed) || sharesMemory(told, handed) {
+				t.Errorf("P1: Apply(%q, %q), or Reverse or Diff, answers what it was handed", c.text, c.patch)
 			}
 		}
 	}
@@ -177,6 +186,8 @@ func answers(strings []string) []answer {
 		for _, b := range strings {
 			number, err := tailor.Distance(a, b)
 			all = append(all, answer{"", number, err})
+			patch, err := tailor.Diff(a, b, len(a)%7)
+			all = append(all, answer{patch, 0, err})
 			text, err, place := tailor.Apply(a, b)
 			all = append(all, answer{text, place, err})
 		}
