@@ -9,6 +9,8 @@ import (
 // in its hunk.
 const maxContext = 5
 
+func isContext(away int) bool { return away >= 0 && away <= maxContext }
+
 // hunksOf goes through the hunks of a row of steps that leads through all of a
 // text. The lines that stay too far from a change lie between the hunks.
 func hunksOf(steps []step, context int) iter.Seq[hunk] {

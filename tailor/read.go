@@ -15,23 +15,89 @@ type reader struct {
 	at    int // the first byte of the line at hand
 }
 
-// readPatch answers the hunks of a patch, or its error with the place (P6).
-func readPatch(patch string) ([]hunk, Errno, int) {
+// readPatch answers the parts of a patch, hunks or changes, or its error with the
+// place (P6, P10).
+func readPatch[T any](patch string, part func(r *reader, ahead T) (T, bool)) ([]T, Errno, int) {
 	if len(patch) > maxPatch {
 		return nil, ErrLong, 0
 	}
-	r := reader{patch: patch}
-	var hunks []hunk
-	var ahead hunk
-	for r.at < len(patch) {
-		next, ok := r.hunk(ahead)
+	r := &reader{patch: patch}
+	parts, ok := readRow(r, (*reader).hasMore, part)
+	if !ok {
+		return nil, ErrForm, r.at
+	}
+	return parts, OK, 0
+}
+
+// readRow reads what stands one behind the other, as long as more of it follows.
+// What can stand there hangs on the one ahead; ahead of the first one stands the
+// zero value.
+func readRow[T any](r *reader, follows func(r *reader) bool, read func(r *reader, ahead T) (T, bool)) ([]T, bool) {
+	var row []T
+	var ahead T
+	for follows(r) {
+		next, ok := read(r, ahead)
 		if !ok {
-			return nil, ErrForm, r.at
+			return nil, false
 		}
-		hunks = append(hunks, next)
+		row = append(row, next)
 		ahead = next
 	}
-	return hunks, OK, 0
+	return row, true
+}
+
+func (r *reader) hasMore() bool { return r.at < len(r.patch) }
+
+// hasMoreHunks tells if what follows belongs to the change at hand: all does but
+// the beginning of the next one.
+func (r *reader) hasMoreHunks() bool {
+	return r.hasMore() && !strings.HasPrefix(r.line(), oldMark)
+}
+
+// change reads a change that stands behind another one.
+func (r *reader) change(ahead change) (change, bool) {
+	start := r.at
+	c, ok := r.names()
+	if !ok {
+		return change{}, false
+	}
+	c.hunks, ok = readRow(r, (*reader).hasMoreHunks, (*reader).hunk)
+	if !ok {
+		return change{}, false
+	}
+	if c.lacksHunk() || c.name() <= ahead.name() {
+		r.at = start
+		return change{}, false
+	}
+	return c, true
+}
+
+// names reads the lines at the head of a change. If they are fine by themselves,
+// but not together, it is the second one that cannot stand there.
+func (r *reader) names() (change, bool) {
+	var c change
+	var ok bool
+	c.old, ok = readName(r.line(), oldMark)
+	if !ok {
+		return change{}, false
+	}
+	r.pass()
+	c.new, ok = readName(r.line(), newMark)
+	if !ok || !c.agrees() {
+		return change{}, false
+	}
+	r.pass()
+	return c, true
+}
+
+// readName answers the empty name for a file that is not there.
+func readName(line string, mark string) (string, bool) {
+	inner, begins := strings.CutPrefix(line, mark)
+	name, ends := strings.CutSuffix(inner, "\n")
+	if name == nowhere {
+		return "", begins && ends
+	}
+	return name, begins && ends && isName(name)
 }
 
 // line is the line at hand, with its newline. It has none if it breaks off, or

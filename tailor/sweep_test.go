@@ -1,6 +1,7 @@
 package tailor_test
 
 import (
+	"maps"
 	"strings"
 	"testing"
 
@@ -116,6 +117,54 @@ func TestPatchesNearToAPatch(t *testing.T) {
 		wantLikeSlow(t, texts, patch)
 		for _, near := range nearTo(patch) {
 			wantLikeSlow(t, texts, near)
+		}
+	}
+}
+
+// wantTreesLikeSlow holds what a patch makes of trees against the slow form.
+func wantTreesLikeSlow(t *testing.T, trees []map[string]string, patch string) {
+	t.Helper()
+	for _, files := range trees {
+		tree := treeFrom(t, files)
+		err, at := tree.Patch(patch)
+		want, wantErr, wantAt := slowPatch(files, patch)
+		if got := filesOf(t, tree); err != wantErr || at != wantAt || !maps.Equal(got, want) {
+			t.Fatalf("P10, P11: Patch(%q) of %q = %d, %d: %q, want %d, %d: %q", patch, files, err, at, got, wantErr, wantAt, want)
+		}
+	}
+}
+
+func TestAllShortRowsOfLinesOfFiles(t *testing.T) {
+	lines := []string{"--- a\n", "--- b\n", "--- /dev/null\n", "+++ a\n", "+++ b\n", "+++ /dev/null\n", "@@ -1 +1 @@\n", "-x\n", "+y\n", bare}
+	trees := []map[string]string{{}, {"a": "", "b": "x\n"}, {"a": "x\n", "c": "x", "d": "", "e": ""}}
+	for _, row := range rowsOf(lines, 4) {
+		for _, end := range []string{"", "--- "} {
+			wantTreesLikeSlow(t, trees, row+end)
+		}
+	}
+}
+
+func TestAllShortRowsOfChanges(t *testing.T) {
+	pieces := []string{
+		"--- a\n+++ a\n", "--- b\n+++ b\n", "--- /dev/null\n+++ a\n", "--- /dev/null\n+++ b\n", "--- b\n+++ /dev/null\n", "--- c\n+++ /dev/null\n",
+		"@@ -1 +1 @@\n-x\n+y\n", "@@ -1 +0,0 @@\n-x\n", "@@ -0,0 +1 @@\n+y\n", bare, "--- ",
+	}
+	trees := []map[string]string{{}, {"a": "", "b": "x\n"}, {"a": "x\n", "b": "x", "c": ""}, {"a": "x\n", "c": "x\n", "d": "", "e": ""}}
+	for _, patch := range rowsOf(pieces, 4) {
+		wantTreesLikeSlow(t, trees, patch)
+	}
+}
+
+func TestPatchesNearToAPatchOfFiles(t *testing.T) {
+	trees := []map[string]string{{}, {"a": "x\n", "b": "p\nq\n", "e": ""}, {"a": "x\n", "b": "p\nq", "e": "", "f": ""}}
+	for _, patch := range []string{
+		changeA + changeB,
+		goesA + "--- b\n+++ b\n@@ -1,2 +1,2 @@\n p\n-q\n" + bare + "+q\n" + comesC,
+		comesD + "--- e\n+++ /dev/null\n" + "--- /dev/null\n+++ g\n@@ -0,0 +1 @@\n+-- h\n" + bare,
+	} {
+		wantTreesLikeSlow(t, trees, patch)
+		for _, near := range nearTo(patch) {
+			wantTreesLikeSlow(t, trees, near)
 		}
 	}
 }

@@ -1,6 +1,7 @@
 package tailor_test
 
 import (
+	"maps"
 	"math"
 	"slices"
 	"strings"
@@ -55,7 +56,8 @@ func oddStrings() []string {
 		"", "\n", "a", "a\n", "\n\n\n", "a\nb", "\x00", "\xff\xfe", "\r\n", "é\n",
 		"@@ -2 +2 @@\n-b\n+c\n", "@@ -1 +1 @@\n-a\n\\ No newline at end of file\n+a\n",
 		"@@", "@@ -0,0 +0,0 @@\n", "@@ -9999,9999 +9999,9999 @@\n", "\\", "+", "-",
-		"--- a\n+++ a\n", "--- /dev/null\n+++ a\n", "--- ", "abcdefgh", "abcdefghi",
+		"--- a\n+++ a\n", "--- /dev/null\n+++ a\n", "--- /dev/null\n+++ b\n", "--- ", "abcdefgh", "abcdefghi",
+		"--- a\n+++ a\n@@ -1 +1 @@\n-a\n\\ No newline at end of file\n+a\n", "--- a\n+++ /dev/null\n", "/dev/null",
 		strings.Repeat("a", maxText), strings.Repeat("\n", maxText+1),
 		strings.Repeat("\n", 30000), strings.Repeat("@@ -1 +1 @@\n", 30000),
 	}
@@ -96,6 +98,8 @@ func TestTooLongIsFoundByLength(t *testing.T) {
 	huge := strings.Repeat("a\n", 1<<20)
 	fine := "@@ -1 +1 @@\n-a\n+x\n"
 	hugePatch := fine + huge
+	hugeChange := "--- a\n+++ a\n" + hugePatch
+	tree := treeOf(t, "a", "a\n", "b", "")
 	for name, call := range map[string]func(){
 		"Distance of a long text":        func() { tailor.Distance(huge, "") },
 		"Distance to a long text":        func() { tailor.Distance("a\nb\n", huge) },
@@ -107,6 +111,12 @@ func TestTooLongIsFoundByLength(t *testing.T) {
 		"Apply of a long patch":          func() { tailor.Apply("a\nb\n", hugePatch) },
 		"Apply of a long text and patch": func() { tailor.Apply(huge, hugePatch) },
 		"Reverse of a long patch":        func() { tailor.Reverse(hugePatch) },
+		"Put of a long text":             func() { tree.Put("a", huge) },
+		"Put under a long name":          func() { tree.Put(huge, "") },
+		"Put of both":                    func() { tree.Put(huge, huge) },
+		"Get of a long name":             func() { tree.Get(huge) },
+		"Drop of a long name":            func() { tree.Drop(huge) },
+		"Patch of a long patch":          func() { tree.Patch(hugeChange) },
 	} {
 		if allocations := testing.AllocsPerRun(10, call); allocations != 0 {
 			t.Errorf("P1: %s did other work first: %v allocations", name, allocations)
@@ -135,6 +145,28 @@ func TestAnErrorStandsBesideZero(t *testing.T) {
 			text, err, at := tailor.Apply(a, b)
 			if err != tailor.OK && text != "" || (err == tailor.OK || err == tailor.ErrLong) && at != 0 {
 				t.Errorf("P1: Apply of %d and %d bytes is %q, %d, %d", len(a), len(b), text, err, at)
+			}
+		}
+	}
+}
+
+func TestATreesErrorStandsBesideZero(t *testing.T) {
+	placed := []tailor.Errno{tailor.ErrForm, tailor.ErrHunk, tailor.ErrThere, tailor.ErrNone}
+	for _, a := range oddStrings() {
+		tree := treeOf(t, "a", "a", "b", "")
+		files := filesOf(t, tree)
+		if text, err := tree.Get(a); err != tailor.OK && text != "" {
+			t.Errorf("P1: Get of %d bytes is %q beside the error %d", len(a), text, err)
+		}
+		if err, at := tree.Patch(a); at != 0 && !slices.Contains(placed, err) {
+			t.Errorf("P1: Patch of %d bytes tells %d beside %d", len(a), at, err)
+		} else if err != tailor.OK && !maps.Equal(filesOf(t, tree), files) {
+			t.Errorf("P1: Patch of %d bytes tells %d, but files have changed", len(a), err)
+		}
+		for _, b := range oddStrings() {
+			tree := treeOf(t, "a", "a", "b", "")
+			if err := tree.Put(a, b); err != tailor.OK && !maps.Equal(filesOf(t, tree), files) {
+				t.Errorf("P1: Put of %d and %d bytes tells %d, but files have changed", len(a), len(b), err)
 			}
 		}
 	}
@@ -170,6 +202,31 @@ func TestAnswersAreNewMemory(t *testing.T) {
 	}
 }
 
+func TestATreesAnswersAreNewMemory(t *testing.T) {
+	name, text := strings.Clone("name"), strings.Clone("a text\n")
+	patch := strings.Clone("--- name\n+++ name\n@@ -1 +1,2 @@\n a text\n+more\n--- /dev/null\n+++ other\n@@ -0,0 +1 @@\n+a text\n")
+	tree := treeOf(t, name, text)
+	wantNew := func(handed ...string) {
+		t.Helper()
+		for _, known := range tree.Names() {
+			got, _ := tree.Get(known)
+			told, _ := tree.Compare(tailor.New(), 0)
+			for _, old := range handed {
+				if sharesMemory(known, old) || sharesMemory(got, old) || sharesMemory(told, old) {
+					t.Errorf("P1: Names, Get(%q) or Compare answers what was handed in or told ahead", known)
+				}
+			}
+		}
+	}
+	wantNew(name, text)
+	wantPatched(t, tree, patch)
+	wantNew(name, text, patch)
+	for _, known := range tree.Names() {
+		got, _ := tree.Get(known)
+		wantNew(known, got)
+	}
+}
+
 // answer is what one call answered.
 type answer struct {
 	text   string
@@ -184,6 +241,7 @@ func answers(strings []string) []answer {
 		back, err, place := tailor.Reverse(a)
 		all = append(all, answer{back, place, err})
 		for _, b := range strings {
+			all = append(all, treeAnswers(a, b)...)
 			number, err := tailor.Distance(a, b)
 			all = append(all, answer{"", number, err})
 			patch, err := tailor.Diff(a, b, len(a)%7)
@@ -193,6 +251,21 @@ func answers(strings []string) []answer {
 		}
 	}
 	return all
+}
+
+// treeAnswers asks trees of its own.
+func treeAnswers(a string, b string) []answer {
+	tree, other := tailor.New(), tailor.New()
+	all := []answer{{"", 0, tree.Put(a, b)}, {"", 0, tree.Put("a", a)}, {"", 0, tree.Put("b", b)}, {"", 0, other.Put("b", "x\n")}}
+	err, at := tree.Patch(a)
+	all = append(all, answer{"", at, err})
+	patch, err := tree.Compare(other, len(b)%7)
+	all = append(all, answer{patch, 0, err})
+	for _, name := range append(tree.Names(), a) {
+		text, err := tree.Get(name)
+		all = append(all, answer{name, 0, tailor.OK}, answer{text, 0, err})
+	}
+	return append(all, answer{"", 0, tree.Drop(a)}, answer{"", len(tree.Names()), tree.Drop("a")})
 }
 
 func TestAnswersHangOnArgumentsAlone(t *testing.T) {
