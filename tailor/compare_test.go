@@ -178,9 +178,11 @@ func someTrees(names []string, texts []string) []map[string]string {
 
 func TestCompareOfAllSmallTrees(t *testing.T) {
 	trees := someTrees([]string{"one", "two"}, []string{"", "a\n", "a", "a\nb\nc\n", "b\nc\nd\n", "-- two\n"})
-	for i, from := range trees {
-		for k, to := range trees {
-			wantLeadsTree(t, from, to, (i+k)%(maxContext+1))
+	for _, from := range trees {
+		for _, to := range trees {
+			for context := range maxContext + 1 {
+				wantLeadsTree(t, from, to, context)
+			}
 		}
 	}
 	trees = someTrees([]string{"a", "b", "c", "d"}, []string{"", "x"})
